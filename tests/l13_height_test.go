@@ -694,11 +694,15 @@ func TestHeightsOfTilingsOfAnotherRegion(t *testing.T) {
 	}
 }
 
-func TestHeightsOfRegionsThatAreNotSimple(t *testing.T) {
-	cases := []struct {
-		name  string
-		lines []string
-	}{
+// namedFloor is a floor, and what it is.
+type namedFloor struct {
+	name  string
+	lines []string
+}
+
+// floorsThatAreNotSimple returns floors in pieces, with holes, or that touch themselves.
+func floorsThatAreNotSimple() []namedFloor {
+	return []namedFloor{
 		{"two dominoes apart", []string{"##.##"}},
 		{"two dominoes that touch in a corner", []string{"##", "..##"}},
 		{"two dominoes that touch in the other corner", []string{"..##", "##"}},
@@ -713,8 +717,11 @@ func TestHeightsOfRegionsThatAreNotSimple(t *testing.T) {
 		{"a gap in a corner, more tilings", []string{"#####", "#####", "##.##", ".##"}},
 		{"a gap in a corner of the board", append(linesOf("", 4), "...#####", "...#####", "...##.##", "....##.#")},
 	}
+}
+
+func TestHeightsOfRegionsThatAreNotSimple(t *testing.T) {
 	touching := 0
-	for _, c := range cases {
+	for _, c := range floorsThatAreNotSimple() {
 		for _, r := range allTurns(regionOf(c.lines)) {
 			lines := impl.RegionText(r)
 			tilings := wantedList(lines)
